@@ -243,6 +243,14 @@ func TestPlaceAtEveryOffset(t *testing.T) {
 	}
 }
 
+func TestPlaceAtEveryOffsetOfTheLongest(t *testing.T) {
+	b := mixed(4000, 11)
+	for at := range len(b) - 1 {
+		out, e := sum.Place(b, at)
+		checkPlaced(t, b, at, out, e)
+	}
+}
+
 func TestPlaceValues(t *testing.T) {
 	for _, c := range []struct {
 		b    []byte
@@ -397,10 +405,11 @@ func TestInternetDetectsOneByte(t *testing.T) {
 		n := sum.Internet(b)
 		for i := range b {
 			changed(b, i, func(was, is byte) {
-				if sameModulo(was, is) {
-					return
+				// The document does not ask for this one, but the definition of the checksum settles it.
+				if sameModulo(was, is) && sum.Internet(b) != wantInternet(b) {
+					t.Fatalf("offset %d of %v, was %d: %d", i, b, was, sum.Internet(b))
 				}
-				if sum.Holds(b) || sum.Internet(b) == n {
+				if !sameModulo(was, is) && (sum.Holds(b) || sum.Internet(b) == n) {
 					t.Fatalf("offset %d of %v, was %d: not detected", i, b, was)
 				}
 			})
