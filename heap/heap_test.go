@@ -350,7 +350,7 @@ func TestHeapOfNoItems(t *testing.T) {
 	}
 }
 
-// Many items: the calls are done in a time that hardly grows with their number.
+// So many items that an act whose time grows with their number would not end soon.
 func TestManyItems(t *testing.T) {
 	const n = 200000
 	h := heap.New(mixed(n, 1<<30, 1))
